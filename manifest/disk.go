@@ -15,15 +15,26 @@ func inTurn(steps ...func() api.Errno) api.Errno {
 	return api.OK
 }
 
-// readWhole reads a file by one operation, also where there is none: that is
-// what the operation tells.
+// isNone answers whether f is no file system. No file has a name without
+// bytes, so nothing is done to one that is.
+func isNone(f *vfs.Fs) bool {
+	return f.Sync("") == api.ErrNil
+}
+
+// isThere answers whether there is a file of that name. An operation may not be
+// what tells it: one that finds no file counts, may be struck, and has an error.
+func isThere(f *vfs.Fs, name string) bool {
+	return f.Size(name) >= 0
+}
+
+// readWhole reads a file that is there, by one operation.
 func readWhole(f *vfs.Fs, name string) ([]byte, api.Errno) {
-	return f.Read(name, 0, max(f.Size(name), 0))
+	return f.Read(name, 0, f.Size(name))
 }
 
 // removeOld removes the file of a name, if there is one.
 func removeOld(f *vfs.Fs, name string) api.Errno {
-	if f.Size(name) < 0 {
+	if !isThere(f, name) {
 		return api.OK
 	}
 	return f.Remove(name)

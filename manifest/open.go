@@ -12,6 +12,9 @@ import (
 // Open reads the manifest of a file system, or makes the first one. What a
 // crash has left of an edit is left out.
 func Open(f *vfs.Fs) (m *Manifest, err api.Errno) {
+	if isNone(f) {
+		return nil, api.ErrNil
+	}
 	// One that could not be opened is not handed out, however far it came.
 	defer func() {
 		if err != api.OK {
@@ -19,11 +22,11 @@ func Open(f *vfs.Fs) (m *Manifest, err api.Errno) {
 		}
 	}()
 	m = &Manifest{disk: f, version: version.First()}
-	line, err := readWhole(f, current) // of no file system that is ErrNil
-	switch {
-	case err == api.ErrNone:
+	if !isThere(f, current) {
 		return m, m.rollTo(1)
-	case err != api.OK:
+	}
+	line, err := readWhole(f, current)
+	if err != api.OK {
 		return m, err
 	}
 	return m, m.load(line)
@@ -34,14 +37,11 @@ func Open(f *vfs.Fs) (m *Manifest, err api.Errno) {
 func (m *Manifest) load(line []byte) api.Errno {
 	name, ended := strings.CutSuffix(string(line), lineEnd)
 	number, ok := ParseName(name)
-	if !ended || !ok {
+	if !ended || !ok || !isThere(m.disk, name) {
 		return api.ErrBad
 	}
 	row, err := readWhole(m.disk, name)
-	switch {
-	case err == api.ErrNone:
-		return api.ErrBad
-	case err != api.OK:
+	if err != api.OK {
 		return err
 	}
 	m.file = name

@@ -22,7 +22,7 @@ func TestOpenOfNoFileSystem(t *testing.T) {
 func TestOpenOfAnEmptyFileSystem(t *testing.T) {
 	f := fresh(t)
 	m := opened(t, "empty", f, version.First(), 1)
-	took(t, "Open", f, 0, 10)
+	took(t, "Open", f, 0, 9)
 	named(t, f, "current", first)
 	if m.Size() != len(rowOf(beginning())) {
 		t.Errorf("Size: %d, want %d", m.Size(), len(rowOf(beginning())))
@@ -96,14 +96,35 @@ func TestManifestsFileThatIsNotThere(t *testing.T) {
 	for _, name := range []string{second, "manifest-000000000000", last} {
 		f := disk(t, 1, rowOf(beginning()))
 		put(t, f, "current", name+"\n")
-		isBad(t, "no "+name, f, 2)
+		isBad(t, "no "+name, f, 1)
 	}
-	// The disk's error comes first.
-	f := fresh(t)
-	put(t, f, "current", first+"\n")
-	fine(t, f.Fault(1, api.ErrIO))
-	notOpened(t, "no file and a fault", f, api.ErrIO)
-	isBad(t, "no file", f, 2)
+}
+
+// No Read is done of a file that is not there: the one of current is the only
+// operation, and what strikes the one behind it strikes none of Open's.
+func TestStruckWithoutTheManifestsFile(t *testing.T) {
+	for _, how := range []strike{byFuse, byFault(api.ErrIO), byFault(api.ErrFull)} {
+		f := fresh(t)
+		put(t, f, "current", "manifest-000000000005\n")
+		for n := range 3 {
+			before, e := f.Ops(), how(t, f, n+1)
+			notOpened(t, "no file, struck behind", f, api.ErrBad)
+			took(t, "Open", f, before, 1)
+			if !f.On() {
+				t.Fatal("the disk is off")
+			}
+			for range n {
+				fine(t, f.SyncDir())
+			}
+			refused(t, "what is behind Open", f.SyncDir(), e)
+			fine(t, f.Crash(0, nil))
+			// The Read of current is struck ahead of all that it would tell.
+			e = how(t, f, 0)
+			notOpened(t, "no file, struck", f, e)
+			fine(t, f.Crash(0, nil))
+		}
+		isBad(t, "no file", f, 1)
+	}
 }
 
 // badRows tells rows that are no manifest's, whatever stands behind them.
@@ -249,11 +270,7 @@ func TestBitsOfCurrentTurned(t *testing.T) {
 			fine(t, f.Turn("current", at, 1<<bit))
 			// Another name may be told, but no file of that name is there.
 			what := fmt.Sprintf("bit %d of byte %d of current turned", bit, at)
-			operations := 1
-			if line := content(t, f, "current"); line[21] == '\n' && line[:9] == "manifest-" && strings.Trim(line[9:21], "0123456789") == "" {
-				operations = 2
-			}
-			isBad(t, what, f, operations)
+			isBad(t, what, f, 1)
 		}
 	}
 }

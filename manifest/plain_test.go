@@ -38,13 +38,13 @@ type plain struct {
 // openPlain opens the manifest of f by the chapter's words.
 func openPlain(f *vfs.Fs) (keeper, api.Errno) {
 	p := &plain{f: f, v: version.First()}
-	line, e := f.Read("current", 0, api.MaxDisk)
-	if e == api.ErrNone {
+	if !slices.Contains(f.Names(), "current") {
 		if e := p.roll(1, false); e != api.OK {
 			return nil, e
 		}
 		return p, api.OK
 	}
+	line, e := f.Read("current", 0, api.MaxDisk)
 	if e != api.OK {
 		return nil, e
 	}
@@ -54,10 +54,11 @@ func openPlain(f *vfs.Fs) (keeper, api.Errno) {
 	for _, c := range line[len("manifest-") : len(line)-1] {
 		p.n = p.n*10 + uint64(c-'0')
 	}
-	row, e := f.Read(string(line[:len(line)-1]), 0, api.MaxDisk)
-	if e == api.ErrNone {
+	name := string(line[:len(line)-1])
+	if !slices.Contains(f.Names(), name) {
 		return nil, api.ErrBad
 	}
+	row, e := f.Read(name, 0, api.MaxDisk)
 	if e != api.OK {
 		return nil, e
 	}
